@@ -78,8 +78,8 @@ func plain(digits []string) ([]int, bool) {
 }
 
 var (
-	constantHead   = regexp.MustCompile(`^#(\d+):(\d+)`)
-	variableHead   = regexp.MustCompile(`^v(\d+):(\d+)`)
+	constantHead   = regexp.MustCompile(`^#(\d+):(\d+)$`)
+	variableHead   = regexp.MustCompile(`^v(\d+):(\d+)$`)
 	sliceHead      = regexp.MustCompile(`^\(slice (\d+) (\d+)`)
 	quantifierHead = regexp.MustCompile(`^\((?:all|some) v(\d+):(\d+)`)
 	wordHead       = regexp.MustCompile(`^\(([^ ()]+)`)
@@ -88,6 +88,10 @@ var (
 // head reads what stands ahead of the parts of the node from byte p on: the node, and where that ends.
 func (r *reading) head(p int) (node, int, bool) {
 	s := r.text[p:]
+	// a word goes on to a blank or to a bracket that closes
+	if end := strings.IndexAny(s, " )"); end >= 0 && s[0] != '(' {
+		s = s[:end]
+	}
 	op := impl.OpConst
 	form := constantHead
 	if variableHead.MatchString(s) {
@@ -338,13 +342,11 @@ func TestFirstFailure(t *testing.T) {
 		// a node that would not be right below one that would be
 		{"(not #1:2)", width, 5}, {"(not (= #1:0 #2:0))", width, 5}, {"(and #1:0 (not #3:8))", width, 15}, {"(slice 0 1 #1:2)", width, 11}, {"(all v0:1 v9:1)", width, 10},
 		// of two failures the one on the way
-		{"(and #1:2 x)", width, 5}, {"(and x #1:2)", bad, 5}, {"(and #1:2)", width, 5}, {"(= #1:0 #2:0", bad, 0}, {"(= #1:0 #2:0 #1:2)", bad, 0}, {"(= #1:0 #2:0)x", width, 0}, {"#1:2x", width, 0}, {"#1:2 x", width, 0},
+		{"(and #1:2 x)", width, 5}, {"(and x #1:2)", bad, 5}, {"(and #1:2)", width, 5}, {"(= #1:0 #2:0", bad, 0}, {"(= #1:0 #2:0 #1:2)", bad, 0}, {"(= #1:0 #2:0)x", width, 0}, {"#1:2x", bad, 0}, {"#1:2 x", width, 0},
 		{"(all v8:1 x)", bad, 10}, {"(all v8:1 #1:2)", width, 10}, {"(all v08:1 x)", bad, 0}, {"(slice 9 9 x)", bad, 11}, {"(slice 09 9 x)", bad, 0}, {"(slice 9 9x x)", bad, 0}, {"(foo #1:2)", bad, 0}, {"(foo x)", bad, 0},
 		{"(and (= #1:0 #2:0) x)", width, 5}, {"(and (= #1:0 #2:0", bad, 5}, {"(and (not #1:0) (not x) y)", bad, 21}, {"(and (not #1:0 #1:2) x)", bad, 5}, {"(not #1:1", bad, 0}, {"(not (not #1:1)", bad, 0}, {"(not (not (not ", bad, 15}, {"(not (not (not", bad, 10},
 		// anything behind a whole node
-		{"(not #1:1) ", rest, 10}, {"(not #1:1))", rest, 10}, {"(not #1:1)(", rest, 10}, {"(not #1:1) x", rest, 10}, {"#1:1 ", rest, 4}, {"#1:1)", rest, 4}, {"v0:1 v0:1", rest, 4}, {"v0:1:1", rest, 4}, {"#1:1x", rest, 4}, {"#1:1#1:1", rest, 4},
-		// a part with something at it: the node above it has no blank, or no bracket, there
-		{"(not #1:1x)", bad, 0}, {"(and #1:1x #1:1)", bad, 0}, {"(or v0:1 (and #1:1(not #1:1)))", bad, 9},
+		{"(not #1:1) ", rest, 10}, {"(not #1:1))", rest, 10}, {"(not #1:1)(", rest, 10}, {"(not #1:1) x", rest, 10}, {"#1:1 ", rest, 4}, {"#1:1)", rest, 4}, {"v0:1 v0:1", rest, 4}, {"#1:1))", rest, 4}, {"#1:1)x", rest, 4}, {"v0:1 x", rest, 4}, {"(not #1:1)x", rest, 10}, {"(not #1:1)#1:1", rest, 10},
 		// parts too few and one too many
 		{"(not)", bad, 0}, {"(not )", bad, 5}, {"(not #1:1 #1:1)", bad, 0}, {"(and)", bad, 0}, {"(and #1:0)", bad, 0}, {"(and #1:0 )", bad, 10}, {"(and #1:0 #1:0 #1:0)", bad, 0}, {"(if #1:0 #1:0)", bad, 0}, {"(if #1:0 #1:0 #1:0 #1:0)", bad, 0},
 		{"(slice 0 1)", bad, 0}, {"(slice 0 #1:0)", bad, 0}, {"(slice #1:0)", bad, 0}, {"(slice 0 1 #1:0 #1:0)", bad, 0}, {"(slice 0 1 0 #1:0)", bad, 11}, {"(all v0:1)", bad, 0}, {"(all #1:0)", bad, 0}, {"(all #1:0 #1:0)", bad, 0}, {"(all v0:1 #1:0 #1:0)", bad, 0}, {"(some v0 #1:0)", bad, 0}, {"(some (not v0:1) #1:0)", bad, 0}, {"(some v0:1 v0:1 v0:1)", bad, 0},
@@ -357,16 +359,45 @@ func TestBlanksTooManyAndTooFew(t *testing.T) {
 	for text, at := range map[string]int{
 		" #1:1": 0, "# 1:1": 0, "#1 :1": 0, "#1: 1": 0, " v0:1": 0, "v 0:1": 0, "v0 :1": 0, "v0: 1": 0,
 		"( not #1:1)": 0, "(not  #1:1)": 5, "(not #1:1 )": 0, "(not#1:1)": 0, " (not #1:1)": 0,
-		"(and  #1:1 #1:1)": 5, "(and #1:1  #1:1)": 10, "(and #1:1#1:1)": 0, "(and#1:1 #1:1)": 0, "(and #1:1 #1:1 )": 0,
+		"(and  #1:1 #1:1)": 5, "(and #1:1  #1:1)": 10, "(and #1:1#1:1)": 5, "(and#1:1 #1:1)": 0, "(and #1:1 #1:1 )": 0,
 		"(slice  0 1 #1:1)": 0, "(slice 0  1 #1:1)": 0, "(slice 0 1  #1:1)": 11, "(slice0 1 #1:1)": 0, "(slice 0 1#1:1)": 0, "(slice 01 #1:1)": 0,
 		"(all  v0:1 #1:1)": 0, "(all v0:1  #1:1)": 10, "(allv0:1 #1:1)": 0, "(all v0:1#1:1)": 0, "(all v 0:1 #1:1)": 0, "(all v0:1(not #1:1))": 0,
-		"(not\t#1:1)": 0, "(not\n#1:1)": 0, "\t#1:1": 0, "(and #1:1\t#1:1)": 0, "(and #1:1 \t#1:1)": 10, "(not #1:1\n)": 0,
-		"(if #1:1 #1:1  #1:1)": 14, "(if #1:1 #1:1#1:1)": 0,
+		"(not\t#1:1)": 0, "(not\n#1:1)": 0, "\t#1:1": 0, "(and #1:1\t#1:1)": 5, "(and #1:1 \t#1:1)": 10, "(not #1:1\n)": 5,
+		"(if #1:1 #1:1  #1:1)": 14, "(if #1:1 #1:1#1:1)": 9,
 	} {
 		fails(t, text, impl.TextBad, at)
 	}
 	fails(t, "(not #1:1) ", impl.TextRest, 10)
 	fails(t, "(not #1:1)\n", impl.TextRest, 10)
+}
+
+// A word is taken whole: what only begins as a node does is none, whatever else would be wrong with it or above it.
+func TestWordsThatGoOn(t *testing.T) {
+	for _, word := range []string{"#1:1", "v0:1", "#1:2", "#9:0", "v8:1", "v0:9", "#100000000:0", "v999999999:999999999"} {
+		for _, more := range []string{"x", ":", ":0", ":0:0", "#1:0", "v0:1", "(", "(not", "-", "#", "v", ",", ".0", "\t", "\n", "\x00", "\xff", "é", "\u00a0"} {
+			long := word + more
+			for _, behind := range []string{"", " ", " x", ")", ")x", " #1:0)", " (not #1:1))"} {
+				fails(t, long+behind, impl.TextBad, 0)
+				fails(t, "(not "+long+behind, impl.TextBad, 5)
+				fails(t, "(and #1:0 "+long+behind, impl.TextBad, 10)
+				fails(t, "(= #1:0 (and "+long+behind, impl.TextBad, 13)
+				fails(t, "(if #1:0 #1:0 "+long+behind, impl.TextBad, 14)
+				fails(t, "(slice 9 9 "+long+behind, impl.TextBad, 11)
+				fails(t, "(some v8:9 "+long+behind, impl.TextBad, 11)
+				fails(t, "(all "+long+behind, impl.TextBad, 0)
+			}
+		}
+	}
+	for _, at := range []string{"#1:0", "v0:1", "#1:2", "(not #1:0)", "x", "(", ":"} {
+		// what goes on behind a bracket that closes is no longer word, but stands where none may
+		fails(t, "(not #1:0)"+at, impl.TextRest, 10)
+		fails(t, "(not (not #1:0)"+at+")", impl.TextBad, 0)
+		fails(t, "(and #1:0 (not #1:0)"+at+")", impl.TextBad, 0)
+		fails(t, "#1:0 "+at, impl.TextRest, 4)
+		fails(t, "#1:0)"+at, impl.TextRest, 4)
+	}
+	fails(t, "(some v0:3 (all v1:2 (some v2:1 (s< v1:2 (join (< v2:1v2:1) (s< v1:2 v1:2))))))", impl.TextBad, 50)
+	fails(t, "(all v0:1 (some v1:2 (not (all v2:3 (or (and (sub v0:1 v0:1) (shl v0:1 v0:1#1:0)) (< (sub #3:1 v2:3) (not v2:3)))))))", impl.TextBad, 71)
 }
 
 func TestWordsThatThereAreNot(t *testing.T) {
@@ -426,15 +457,32 @@ func TestEveryByte(t *testing.T) {
 		b := string([]byte{byte(c)})
 		digit := c >= '0' && c <= '9'
 		fails(t, "(not #1:1)"+b, impl.TextRest, 10)
-		switch {
-		case digit:
+		if digit {
 			fails(t, "v0:1"+b, impl.TextWidth, 0)
 			fails(t, "v0:0"+b, impl.TextBad, 0)
-		default:
-			fails(t, "v0:1"+b, impl.TextRest, 4)
-			fails(t, "#1:0"+b, impl.TextRest, 4)
+		} else {
 			fails(t, "#"+b+":0", impl.TextBad, 0)
 			fails(t, "(not v"+b+":1)", impl.TextBad, 5)
+		}
+		switch {
+		case c == ' ':
+			fails(t, "(not #1:1"+b, impl.TextBad, 0)
+			fails(t, "(not v0:1"+b+")", impl.TextBad, 0)
+		case c != ')' && !digit:
+			fails(t, "(not #1:1"+b, impl.TextBad, 5)
+			fails(t, "(not v0:1"+b+")", impl.TextBad, 5)
+		}
+		switch {
+		case c == ' ' || c == ')':
+			fails(t, "v0:1"+b, impl.TextRest, 4)
+			fails(t, "#1:0"+b+"x", impl.TextRest, 4)
+			fails(t, "#1:2"+b, impl.TextWidth, 0)
+		case !digit:
+			fails(t, "v0:1"+b, impl.TextBad, 0)
+			fails(t, "#1:0"+b+" x", impl.TextBad, 0)
+			fails(t, "#1:2"+b, impl.TextBad, 0)
+			fails(t, "(all v0:1"+b+" x)", impl.TextBad, 0)
+			fails(t, "(slice 0 1"+b+" x)", impl.TextBad, 0)
 		}
 		if c != '#' && c != 'v' {
 			fails(t, "(not "+b+"1:1)", impl.TextBad, 5)
@@ -445,9 +493,6 @@ func TestEveryByte(t *testing.T) {
 		}
 		if c != '(' {
 			fails(t, b+"not #1:1)", impl.TextBad, 0)
-		}
-		if c != ')' && !digit {
-			fails(t, "(not #1:1"+b, impl.TextBad, 0)
 		}
 		if c != ' ' {
 			fails(t, "(not"+b+"#1:1)", impl.TextBad, 0)
