@@ -533,10 +533,10 @@ func TestMachinesOfMostBits(t *testing.T) {
 	}
 }
 
-func TestMachinesOfSentences(t *testing.T) {
-	d := dice(124)
+// eachWorth calls f for the rows and tables of drawn sentences, with what these are worth.
+func eachWorth(t *testing.T, d *dice, f func(row []bool, x table, v int)) {
 	for count := 0; count < 300; {
-		x := drawSentence(&d)
+		x := drawSentence(d)
 		if impl.Bits(x) > 9 {
 			continue
 		}
@@ -544,11 +544,18 @@ func TestMachinesOfSentences(t *testing.T) {
 		y := isTheWorth(t, "drawn", x)
 		q, _, _ := impl.Front(x)
 		v, _ := impl.Holds(x)
+		f(impl.Rows(q), y, v)
+	}
+}
+
+func TestMachinesOfSentences(t *testing.T) {
+	d := dice(124)
+	eachWorth(t, &d, func(row []bool, x table, v int) {
 		for _, room := range []int{0, 1 + d.below(5), impl.MaxRoom} {
-			m := impl.MachineRun(started(t, impl.Rows(q), y, room), 3*places(y.N))
+			m := impl.MachineRun(started(t, row, x, room), 3*places(x.N))
 			isVerdict(t, "what a sentence is worth", m, v)
 		}
-	}
+	})
 }
 
 // drawMachine is a right one, at a place that it need not have come to, with
