@@ -301,9 +301,6 @@ func TestWhatChecksIsOfThatVerdict(t *testing.T) {
 			row := rowAt(x.N, i)
 			verdict, _ := impl.Decide(row, x)
 			for v := range 2 {
-				if x.N == 3 && d.below(8) > 0 {
-					continue
-				}
 				found := false
 				for _, list := range everyStrategy(row, v) {
 					asked := checksModel(row, x.Ones, v, list, nil)
