@@ -712,12 +712,18 @@ func oneByteOther(text string, f func(text string)) {
 
 func TestTextsWithOneByteOther(t *testing.T) {
 	counts := [2]int{}
-	for _, text := range []string{
+	texts := []string{
 		rightText,
 		"row -\ntable 0:1\nroom 0\nvals -\nret -1\nover 0\ncounts 0 0 0\n",
 		"row as\ntable 2:0110\nroom 40\nvals 0\nret 1\nover 0\ncounts 1000000000 99 1000000000\nseen 1:01 1\n",
 		"row s\ntable 1:10\nroom 4\nvals -\nret 0\nover 1\ncounts 4 10 100\nseen 1 0\nseen 10 0\nseen 11 1\nseen : 0\n",
-	} {
+	}
+	for _, m := range savable() {
+		if text := saveModel(m); len(text) < 1000 {
+			texts = append(texts, text)
+		}
+	}
+	for _, text := range texts {
 		want(t, "a right text", one(loadsAsItIs(t, "right", text)), 1)
 		oneByteOther(text, func(text string) { counts[one(loadsAsItIs(t, "one byte other", text))]++ })
 	}
