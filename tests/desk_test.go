@@ -411,6 +411,40 @@ func TestScriptsOfOps(t *testing.T) {
 	}
 }
 
+// answersAsItsLines asks that a script is told what its lines are, one by one.
+func answersAsItsLines(t *testing.T, name string, lines ...string) {
+	t.Helper()
+	j, told := job{}, []string{}
+	for _, line := range lines {
+		next, said := impl.DeskLine(j, line)
+		j, told = next, append(told, said)
+	}
+	deskSays(t, name, script(lines...), script(told...))
+}
+
+// Words stand in two places, for lines and for scripts: each of them is known in both.
+func TestScriptsAnswerAsTheirLines(t *testing.T) {
+	for _, line := range append(rightLines(), wrongLines()...) {
+		if strings.Contains(line, "\n") || 3*len(line) > mostScript-1000 {
+			continue
+		}
+		answersAsItsLines(t, "on no job", line, "status")
+		answersAsItsLines(t, "on one that runs", "submit 2 "+sameBits, "step 4", line, "status", line, "left")
+		answersAsItsLines(t, "on one that is done", "submit 2 "+sameBits, "step 100", line, "status", line, "win")
+	}
+	d := dice(192)
+	for range 300 {
+		text, _ := drawnSentence(&d, 5)
+		lines := []string{}
+		for range d.below(60) {
+			lines = append(lines, drawLine(&d, text, 20))
+		}
+		if len(script(lines...)) <= mostScript {
+			answersAsItsLines(t, "drawn", lines...)
+		}
+	}
+}
+
 func TestAJournalThatIsFullAtTheDesk(t *testing.T) {
 	lines := []string{fmt.Sprintf("submit %d %s", impl.MaxRoom, "(all v0:6 (some v1:6 (= (add v0:6 v1:6) #6:0)))"), "step 100000"}
 	for len(lines) < mostLines-8 {
